@@ -74,6 +74,9 @@ func readByPattern(raw string, l []impl.Handle) (string, bool) {
 	}
 	rest := raw[len(m[1]):]
 	for _, h := range l {
+		if h.Name == m[1] && h.Prefix == "" {
+			return "", false
+		}
 		if h.Name == m[1] {
 			return h.Prefix + rest, true
 		}
@@ -100,6 +103,8 @@ func handleLists() [][]impl.Handle {
 		{{Name: "!a_!", Prefix: "w:"}, {Name: "", Prefix: "e:"}, {Name: "a", Prefix: "n:"}, {Name: "!!!", Prefix: "t:"}, {Name: "!a", Prefix: "o:"}, {Name: "!<!", Prefix: "s:"}},
 		{{Name: "!a!a!", Prefix: "f:"}, {Name: "!a!!", Prefix: "g:"}, {Name: "!!a!", Prefix: "h:"}},
 		{{}, {Name: "!a!"}, {Name: "!a!", Prefix: "p:"}, {Name: "!!"}, {Name: "!", Prefix: "\x00 \xff"}},
+		{{Name: "!"}, {Name: "!!"}, {Name: "!a!"}, {Name: "!!", Prefix: "c:"}, {Name: "!", Prefix: "l:"}, {Name: "!a!", Prefix: "p:"}},
+		{{Name: "!", Prefix: "l:"}, {Name: "!!", Prefix: "c:"}, {Name: "!a!", Prefix: "p:"}, {Name: "!a!"}, {Name: "!!"}, {Name: "!"}},
 	}
 }
 
@@ -296,10 +301,35 @@ func TestTagReadEdges(t *testing.T) {
 		{long + "x", l, "long:x", true}, {longer + "x", l, "", false}, {long + "x", nil, "", false},
 		{"!\xff\x00\r", nil, "!\xff\x00\r", true}, {"!a!\xff\x00\r", l, "p:\xff\x00\r", true}, {"!a! x\n", l, "p: x\n", true}, {"!a!é", l, "p:é", true}, {"!!-", l, "tag:yaml.org,2002:-", true},
 		{"!a!" + strings.Repeat("x", 900), l, "p:" + strings.Repeat("x", 900), true},
-		{"!a!x", []impl.Handle{{Name: "!a!"}, {Name: "!a!", Prefix: "p:"}}, "x", true}, {"!x", []impl.Handle{{Name: "!", Prefix: " \x7f"}}, " \x7fx", true}, {"!x", []impl.Handle{{}, {Name: "x", Prefix: "n:"}}, "!x", true},
+		{"!x", []impl.Handle{{Name: "!", Prefix: " \x7f"}}, " \x7fx", true}, {"!x", []impl.Handle{{}, {Name: "x", Prefix: "n:"}}, "!x", true},
 	} {
 		if got, ok := impl.TagRead(c.raw, c.l); got != c.want || ok != c.ok {
 			t.Errorf("TagRead(%q, %q) = %q, %v, not %q, %v", c.raw, c.l, got, ok, c.want, c.ok)
+		}
+	}
+}
+
+// P9: the first handle of a name counts: where it has no prefix there is no tag, whatever stands behind it in the list.
+func TestTagReadWithoutAPrefix(t *testing.T) {
+	for _, name := range []string{"!", "!!", "!h!", "!" + strings.Repeat("h", 58) + "!"} {
+		without, with := impl.Handle{Name: name}, impl.Handle{Name: name, Prefix: "p:"}
+		for _, rest := range []string{"x", "str", "é", "\xff\x00"} {
+			for _, l := range [][]impl.Handle{{without}, {without, with}, {without, without, with}, {{Name: "!other!", Prefix: "o:"}, without, with}, {{Prefix: "e:"}, without}} {
+				if got, ok := impl.TagRead(name+rest, l); got != "" || ok {
+					t.Errorf("TagRead(%q, %q) = %q, %v", name+rest, l, got, ok)
+				}
+			}
+			for _, l := range [][]impl.Handle{{with}, {with, without}, {{Name: "!other!"}, with, without}, {{}, with}} {
+				if got, ok := impl.TagRead(name+rest, l); got != "p:"+rest || !ok {
+					t.Errorf("TagRead(%q, %q) = %q, %v", name+rest, l, got, ok)
+				}
+			}
+		}
+	}
+	short := []impl.Handle{{Name: "!"}, {Name: "!!"}}
+	for raw, want := range map[string]string{"!": "!", "!<u>": "u", "!<!a>": "!a"} {
+		if got, ok := impl.TagRead(raw, short); got != want || !ok {
+			t.Errorf("TagRead(%q, %q) = %q, %v", raw, short, got, ok)
 		}
 	}
 }
