@@ -11,24 +11,24 @@ import (
 	"loop.example/g00666/impl"
 )
 
-// flowTold is what FlowAt answers.
-type flowTold struct {
+// nodeTold is what FlowAt and BlockAt answer.
+type nodeTold struct {
 	events      []impl.Event
 	place, code int
 }
 
-func flowAt(s string, p int) flowTold {
+func flowAt(s string, p int) nodeTold {
 	l, place, code := impl.FlowAt(s, p)
-	return flowTold{l, place, code}
+	return nodeTold{l, place, code}
 }
 
-func (a flowTold) same(b flowTold) bool {
+func (a nodeTold) same(b nodeTold) bool {
 	return slices.Equal(a.events, b.events) && a.place == b.place && a.code == b.code
 }
 
 // brief writes each event as a word, and then @ and the place behind the node, or ! and the code, @ and the place of the fault.
 // An end is a /, a blank within a text a _, and a break a ~.
-func (a flowTold) brief() string {
+func (a nodeTold) brief() string {
 	out := ""
 	for _, e := range a.events {
 		out += briefEvent(e) + " "
@@ -39,7 +39,7 @@ func (a flowTold) brief() string {
 	return out + fmt.Sprintf("@%d", a.place)
 }
 
-// briefEvent shows an event whole that has another style or other fields than a flow node may have.
+// briefEvent shows an event whole that has other fields than its kind. A block list or map is told from one in the flow style by a dash.
 func briefEvent(e impl.Event) string {
 	word := ""
 	switch e {
@@ -51,6 +51,14 @@ func briefEvent(e impl.Event) string {
 		word = "["
 	case impl.Event{Kind: impl.EvMap, Style: impl.StFlow, Anchor: e.Anchor, Tag: e.Tag}:
 		word = "{"
+	case impl.Event{Kind: impl.EvSeq, Style: impl.StBlock, Anchor: e.Anchor, Tag: e.Tag}:
+		word = "-["
+	case impl.Event{Kind: impl.EvMap, Style: impl.StBlock, Anchor: e.Anchor, Tag: e.Tag}:
+		word = "-{"
+	case impl.Event{Kind: impl.EvText, Style: impl.StLiteral, Text: e.Text, Anchor: e.Anchor, Tag: e.Tag}:
+		word = "|" + e.Text
+	case impl.Event{Kind: impl.EvText, Style: impl.StFolded, Text: e.Text, Anchor: e.Anchor, Tag: e.Tag}:
+		word = ">" + e.Text
 	case impl.Event{Kind: impl.EvText, Style: impl.StPlain, Text: e.Text, Anchor: e.Anchor, Tag: e.Tag}:
 		word = ":" + e.Text
 	case impl.Event{Kind: impl.EvText, Style: impl.StSingle, Text: e.Text, Anchor: e.Anchor, Tag: e.Tag}:
@@ -415,20 +423,29 @@ var flowPropRule = regexp.MustCompile(`^[&!]`)
 
 // flowRule reads a flow node by a text of the signs that are open and a word for what is next; it never calls itself.
 type flowRule struct {
-	s    string
-	at   int
-	open string
-	out  flowTold
+	s      string
+	at     int
+	open   string
+	around int // how many block collections are open
+	behind int // the place directly behind the last property
+	out    nodeTold
 }
 
 const flowOver = ""
 
-func nodeByRule(s string, p int) flowTold {
+func nodeByRule(s string, p int) nodeTold {
 	r := &flowRule{s: s, at: gapByRule(s, placeByRule(s, p))}
-	next := "node"
+	r.run("node")
+	if r.out.code == 0 {
+		r.out.place = r.at
+	}
+	return r.out
+}
+
+func (r *flowRule) run(next string) {
 	for next != flowOver {
 		if r.open != "" {
-			r.at = gapByRule(s, r.at)
+			r.at = gapByRule(r.s, r.at)
 		}
 		if code := r.stop(); code != 0 {
 			next = r.fault(code, r.at)
@@ -436,10 +453,6 @@ func nodeByRule(s string, p int) flowTold {
 			next = r.step(next)
 		}
 	}
-	if r.out.code == 0 {
-		r.out.place = r.at
-	}
-	return r.out
 }
 
 func (r *flowRule) stop() int {
@@ -515,8 +528,18 @@ func (r *flowRule) behindNode() string {
 	return "behind"
 }
 
-// own reads the properties into an event without a kind.
+// own reads the properties; a stop behind them is a fault.
 func (r *flowRule) own() (impl.Event, bool) {
+	e, ok := r.words()
+	if code := r.stop(); ok && code != 0 {
+		r.fault(code, r.at)
+		return e, false
+	}
+	return e, ok
+}
+
+// words reads the properties into an event without a kind.
+func (r *flowRule) words() (impl.Event, bool) {
 	e := impl.Event{}
 	for flowPropRule.MatchString(r.s[r.at:]) {
 		word, again := nameByPattern(r.s, r.at), e.Anchor != ""
@@ -534,14 +557,11 @@ func (r *flowRule) own() (impl.Event, bool) {
 			r.fault(15, r.at)
 			return e, false
 		}
+		r.behind = word.end
 		r.at = whiteByRule(r.s, word.end)
 		if r.open != "" {
 			r.at = gapByRule(r.s, word.end)
 		}
-	}
-	if code := r.stop(); code != 0 {
-		r.fault(code, r.at)
-		return e, false
 	}
 	return e, true
 }
@@ -587,7 +607,7 @@ func (r *flowRule) behindScalar(key bool) string {
 }
 
 func (r *flowRule) collection(e impl.Event) string {
-	if len(r.open) >= 40 {
+	if r.around+len(r.open) >= 40 {
 		return r.fault(12, r.at)
 	}
 	sign := r.s[r.at : r.at+1]
@@ -638,7 +658,7 @@ func endedByRule(l []impl.Event, name string) bool {
 }
 
 // streamOf puts what was told into a stream; a fault is its last event.
-func streamOf(a flowTold) []impl.Event {
+func streamOf(a nodeTold) []impl.Event {
 	l := append([]impl.Event{{Kind: impl.EvStream}, {Kind: impl.EvDoc}}, a.events...)
 	if a.code != 0 {
 		return append(l, impl.Event{Kind: impl.EvFault, Code: a.code, At: a.place})
@@ -646,8 +666,8 @@ func streamOf(a flowTold) []impl.Event {
 	return append(l, impl.Event{Kind: impl.EvDocEnd}, impl.Event{Kind: impl.EvStreamEnd})
 }
 
-// streamFault tells what keeps an answer from being a node, or the beginning of one, as P2 has it.
-func streamFault(s string, a flowTold) string {
+// nestFault tells what keeps an answer from being a node, or the beginning of one, as P2 has it.
+func nestFault(s string, a nodeTold) string {
 	if !impl.Nested(streamOf(a)) {
 		return "it isn't nested"
 	}
@@ -672,12 +692,23 @@ func streamFault(s string, a flowTold) string {
 	switch {
 	case a.place < 0 || a.place > len(s):
 		return "its place isn't one of the text"
+	case a.code == 3 && a.place != len(s):
+		return "3 is told where the text doesn't end"
+	case a.code != 0 && (a.code == 4) != (markByRule(s, a.place) > 0):
+		return "a mark is where 4 is told, and nothing else"
+	}
+	return ""
+}
+
+// streamFault tells what keeps an answer from being one of FlowAt.
+func streamFault(s string, a nodeTold) string {
+	switch wrong := nestFault(s, a); {
+	case wrong != "":
+		return wrong
 	case !slices.Contains([]int{0, 3, 4, 5, 7, 10, 11, 12, 14, 15, 16}, a.code):
 		return "no such code is known"
 	case a.code != 0 && (a.code == 3) != (a.place == len(s)):
 		return "the text ends where 3 is told, and nothing else"
-	case a.code != 0 && (a.code == 4) != (markByRule(s, a.place) > 0):
-		return "a mark is where 4 is told, and nothing else"
 	}
 	return ""
 }
@@ -912,7 +943,7 @@ func TestFlowNodesAreReadAsWritten(t *testing.T) {
 			w := &flowScribe{r: chance(uint64(5*i + form)), gaps: gaps, letters: letters}
 			w.node(false)
 			seen[w.code]++
-			want := flowTold{w.events, len(w.text), w.code}
+			want := nodeTold{w.events, len(w.text), w.code}
 			behind := " ,"
 			if w.code != 0 {
 				behind = "["
@@ -944,7 +975,7 @@ func TestFlowNodesThatAreCutOff(t *testing.T) {
 			got := flowAt(s, 0)
 			known := max(0, len(got.events)-1)
 			if got.code == 0 || wrongStart(got.events[:known], w.events) || streamFault(s, got) != "" {
-				t.Fatalf("FlowAt(%q, 0) is %s; of %q it is %s", s, got.brief(), w.text, flowTold{events: w.events}.brief())
+				t.Fatalf("FlowAt(%q, 0) is %s; of %q it is %s", s, got.brief(), w.text, nodeTold{events: w.events}.brief())
 			}
 		}
 	}
@@ -957,16 +988,22 @@ func wrongStart(l, whole []impl.Event) bool {
 // Chapter 1: an answer is new memory, and hangs on the arguments alone.
 func TestFlowKeepsNothing(t *testing.T) {
 	texts := []string{"[&a x, *a]", "[*a]", "{a: 'b', c}", "[[[", "&a [*a]", "[!! x]", "", "*a", "[&a [", "['a'"}
+	checkKeepsNothing(t, texts, func(s string) nodeTold { return flowAt(s, 0) })
+}
+
+// checkKeepsNothing reads the texts again and again, in another order, and writes into all that was answered.
+func checkKeepsNothing(t *testing.T, texts []string, read func(string) nodeTold) {
+	t.Helper()
 	first := map[string]string{}
 	for _, s := range texts {
-		first[s] = flowAt(s, 0).brief()
+		first[s] = read(s).brief()
 	}
 	for range 3 {
 		slices.Reverse(texts)
 		for _, s := range texts {
-			a := flowAt(s, 0)
+			a := read(s)
 			if got := a.brief(); got != first[s] {
-				t.Errorf("FlowAt(%q, 0) is now %s, first %s", s, got, first[s])
+				t.Errorf("%q is now read as %s, first as %s", s, got, first[s])
 			}
 			whole := a.events[:cap(a.events)]
 			for i := range whole {
