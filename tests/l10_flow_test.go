@@ -428,6 +428,7 @@ type flowRule struct {
 	open   string
 	around int // how many block collections are open
 	behind int // the place directly behind the last property
+	known  []impl.Handle
 	out    nodeTold
 }
 
@@ -553,7 +554,7 @@ func (r *flowRule) words() (impl.Event, bool) {
 		}
 		if !tag {
 			e.Anchor = word.text
-		} else if e.Tag, again = readByPattern(word.text, nil); !again {
+		} else if e.Tag, again = readByPattern(word.text, r.known); !again {
 			r.fault(15, r.at)
 			return e, false
 		}

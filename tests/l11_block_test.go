@@ -613,6 +613,14 @@ func blockNodeByRule(s string, p, n int) nodeTold {
 	if code := r.stop(); next != flowOver && code != 0 {
 		next = r.fault(code, r.at)
 	}
+	r.runFrom(next)
+	if r.out.code == 0 {
+		r.out.place = r.at
+	}
+	return r.out
+}
+
+func (r *blockRule) runFrom(next string) {
 	for next != flowOver {
 		switch next {
 		case "node":
@@ -625,10 +633,6 @@ func blockNodeByRule(s string, p, n int) nodeTold {
 			next = r.behindAll()
 		}
 	}
-	if r.out.code == 0 {
-		r.out.place = r.at
-	}
-	return r.out
 }
 
 func colByRule(s string, p int) int {
@@ -1037,7 +1041,7 @@ func (w *blockScribe) end(e impl.Event) {
 	}
 }
 
-// node writes a node deeper than the column n: at the beginning of a line, behind a dash or behind a colon.
+// node writes a node deeper than the column n: at the beginning of a line, behind a dash, a colon or the mark of a document.
 func (w *blockScribe) node(n int, spot string) {
 	e, words := w.own()
 	block := w.letters[0] != 'v' && w.letters[1] != 'e' && w.r.IntN(5) > 0
@@ -1053,7 +1057,7 @@ func (w *blockScribe) node(n int, spot string) {
 	switch {
 	case spot == "line":
 		least = n + 1
-	case spot == "colon" && block && words == "" || w.r.IntN(3) == 0:
+	case spot != "dash" && block && words == "" || w.r.IntN(3) == 0:
 		w.lineEnd()
 		if words != "" {
 			w.newLine(n + 1 + w.r.IntN(3))
